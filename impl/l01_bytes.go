@@ -183,6 +183,31 @@ func readText(text string, at int64) (string, int64, error) {
 	return joined(text[from:to]), to, nil
 }
 
+// reader goes through a text; behind the first fault it reads nothing but zeros.
+type reader struct {
+	text string
+	at   int64
+	err  error
+}
+
+func (r *reader) num() int64 {
+	if r.err != nil {
+		return 0
+	}
+	n, next, err := readNum(r.text, r.at)
+	r.at, r.err = next, err
+	return n
+}
+
+func (r *reader) word() string {
+	if r.err != nil {
+		return ""
+	}
+	t, next, err := readText(r.text, r.at)
+	r.at, r.err = next, err
+	return t
+}
+
 // NameRight: see chapter 2.
 func NameRight(t string) bool {
 	if len(t) < 1 || len(t) > maxName || !isLetter(t[0]) {
