@@ -307,6 +307,7 @@ func checkNoHouse(t *testing.T, what string, h impl.Hub) {
 		}
 	}
 	unchanged(t, what)
+	checkNoView(t, what, h)
 }
 
 func inRoom(room int64, e impl.Event) impl.Event {
