@@ -308,6 +308,7 @@ func checkNoHouse(t *testing.T, what string, h impl.Hub) {
 	}
 	unchanged(t, what)
 	checkNoView(t, what, h)
+	checkNoSync(t, what, h)
 }
 
 func inRoom(room int64, e impl.Event) impl.Event {

@@ -488,8 +488,11 @@ func TestRoomsOfEach(t *testing.T) {
 // lateRoom has a sight of 3 behind the first ones; 2 comes behind that, and says 105.
 func lateRoom(t *testing.T, more ...impl.Event) impl.Hub {
 	t.Helper()
-	l := []impl.Event{event(100, 0, begins(0)), event(101, 0, joins(1), 100), event(102, 0, door(1, 1), 101), event(103, 0, sight(1, 3), 102), event(104, 0, joins(2), 103), event(105, 0, saysAs(2, "here"), 104)}
-	return putAll(t, impl.HubNew(), append(l, more...)...)
+	return putAll(t, impl.HubNew(), append(lateEvents(), more...)...)
+}
+
+func lateEvents() []impl.Event {
+	return []impl.Event{event(100, 0, begins(0)), event(101, 0, joins(1), 100), event(102, 0, door(1, 1), 101), event(103, 0, sight(1, 3), 102), event(104, 0, joins(2), 103), event(105, 0, saysAs(2, "here"), 104)}
 }
 
 // Who was in then is told by what an Event stands behind; the order is that in which they came.
