@@ -68,17 +68,19 @@ func placesIn(v reflect.Value) []place {
 func isNewMemory(t *testing.T, what string, answer any, handed ...any) {
 	t.Helper()
 	told := placesIn(reflect.ValueOf(answer))
+	var given []place
+	for _, h := range handed {
+		given = append(given, placesIn(reflect.ValueOf(h))...)
+	}
 	for i, p := range told {
 		for _, q := range told[:i] {
 			if p.list && q.list && p.meets(q) {
 				t.Errorf("%s: two lists of the answer share memory", what)
 			}
 		}
-		for _, h := range handed {
-			for _, q := range placesIn(reflect.ValueOf(h)) {
-				if p.meets(q) {
-					t.Errorf("%s: the answer shares memory with what was handed in", what)
-				}
+		for _, q := range given {
+			if p.meets(q) {
+				t.Errorf("%s: the answer shares memory with what was handed in", what)
 			}
 		}
 	}
